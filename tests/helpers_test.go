@@ -3,6 +3,7 @@ package tests
 import (
 	"slices"
 	"testing"
+	"unsafe"
 
 	"loop.example/g00675/impl"
 )
@@ -49,4 +50,13 @@ func wantNumber(t *testing.T, what string, got int64, want int64) {
 	if got != want {
 		t.Errorf("%s: got %d, want %d", what, got, want)
 	}
+}
+
+// sharesBytes: whether some byte of b lies where one of a lies.
+func sharesBytes(a string, b string) bool {
+	if a == "" || b == "" {
+		return false
+	}
+	first, second := uintptr(unsafe.Pointer(unsafe.StringData(a))), uintptr(unsafe.Pointer(unsafe.StringData(b)))
+	return first < second+uintptr(len(b)) && second < first+uintptr(len(a))
 }
