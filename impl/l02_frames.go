@@ -61,14 +61,14 @@ func FrameBytes(f Frame) string {
 	return out + BytesOf(f.Type, 2) + f.Data
 }
 
-// A frameReader goes through the bytes of a frame. Once bytes lack it stays failed, so that whoever reads asks only at the end.
-type frameReader struct {
+// A byteReader goes through a text, number by number. Once bytes lack it stays failed, so that whoever reads asks only at the end.
+type byteReader struct {
 	text   string
 	place  int64
 	failed bool
 }
 
-func (r *frameReader) number(k int64) int64 {
+func (r *byteReader) number(k int64) int64 {
 	n, ok := NumAt(r.text, r.place, k)
 	if !ok {
 		r.failed = true
@@ -78,8 +78,23 @@ func (r *frameReader) number(k int64) int64 {
 	return n
 }
 
+// The next bytes; size is not below 0.
+func (r *byteReader) piece(size int64) string {
+	if size > int64(len(r.text))-r.place {
+		r.failed = true
+		return ""
+	}
+	from := r.place
+	r.place += size
+	return strings.Clone(r.text[from:r.place])
+}
+
+func (r *byteReader) atEnd() bool {
+	return r.place == int64(len(r.text))
+}
+
 // The tags, and the type behind them. A third tag is not gone into: its 33024 is told as the type, which no frame has.
-func (r *frameReader) tagsAndType() ([]int64, int64) {
+func (r *byteReader) tagsAndType() ([]int64, int64) {
 	var tags []int64
 	kind := r.number(2)
 	for kind == tagType && len(tags) < maxTags {
@@ -89,12 +104,12 @@ func (r *frameReader) tagsAndType() ([]int64, int64) {
 	return tags, kind
 }
 
-func (r *frameReader) rest() string {
+func (r *byteReader) rest() string {
 	return strings.Clone(r.text[r.place:])
 }
 
 func ReadFrame(s string) (Frame, bool) {
-	r := &frameReader{text: s}
+	r := &byteReader{text: s}
 	var f Frame
 	f.Dst = r.number(macWidth)
 	f.Src = r.number(macWidth)
