@@ -1,6 +1,7 @@
 package tests
 
 import (
+	"fmt"
 	"slices"
 	"testing"
 	"unsafe"
@@ -59,4 +60,10 @@ func sharesBytes(a string, b string) bool {
 	}
 	first, second := uintptr(unsafe.Pointer(unsafe.StringData(a))), uintptr(unsafe.Pointer(unsafe.StringData(b)))
 	return first < second+uintptr(len(b)) && second < first+uintptr(len(a))
+}
+
+// brief tells a thing by its first characters, as its texts may be long.
+func brief(thing any) string {
+	s := fmt.Sprintf("%+q", fmt.Sprint(thing))
+	return s[:min(len(s), 400)]
 }
