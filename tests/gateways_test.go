@@ -415,6 +415,19 @@ func TestNextRisesWithWhatIsSent(t *testing.T) {
 	}
 }
 
+// Eighty commands do not come to a Next of 65535 either.
+func TestNextOfAsManyFramesAsMayBe(t *testing.T) {
+	e := plainEnd(7, impl.KdGre)
+	s := plainFrame(1, 2, 2054, "hi")
+	g, answers := played(t, append([]impl.Cmd{endCmd(e), macCmd(1, 7)}, slices.Repeat([]impl.Cmd{frameCmd(s)}, 78)...)...)
+	for i, a := range answers[2:] {
+		if !sameAnswer(a, impl.Answer{Out: ipsBytes([]impl.Ip{plainMade(e, int64(i), s)}), Id: 7}) {
+			t.Errorf("frame %d: %s", i, brief(a))
+		}
+	}
+	wantNumber(t, "next", g.Next, 78)
+}
+
 // With Df what has just as many bytes as Mtu is sent, one more is not.
 func TestDfAndMtu(t *testing.T) {
 	for _, kind := range allKinds {
