@@ -456,16 +456,30 @@ func spoilAll(g impl.Gate, answers []impl.Answer) {
 	clear(answers[:cap(answers)])
 }
 
+// putOptRoom gives each list of options room behind it, where something stands.
+func putOptRoom(list []impl.Cmd) {
+	for i := range list {
+		opts := append(list[i].E.Opts, impl.Opt{Class: 5, Data: "room"})
+		list[i].E.Opts = opts[:len(opts)-1]
+	}
+}
+
+// wantOptRoom: what putOptRoom gave stands there still.
+func wantOptRoom(t *testing.T, what string, list []impl.Cmd) {
+	t.Helper()
+	for _, c := range list {
+		if opts := c.E.Opts[:len(c.E.Opts)+1]; opts[len(opts)-1] != (impl.Opt{Class: 5, Data: "room"}) {
+			t.Fatalf("%s: the room behind options was written: %v", what, opts)
+		}
+	}
+}
+
 // Promise 15, of gateways.
 func TestPlayStaysAndIsNewMemory(t *testing.T) {
 	m := player{maker: maker{state: 102}}
 	for round := range 60 {
 		room := cloneCmds(m.list(70))
-		// Each list of options has room behind it, and so has the list of commands.
-		for i := range room {
-			opts := append(room[i].E.Opts, impl.Opt{Class: 5, Data: "room"})
-			room[i].E.Opts = opts[:len(opts)-1]
-		}
+		putOptRoom(room)
 		list := room[:60]
 		kept := cloneCmds(room)
 		g, answers := played(t, list...)
@@ -475,11 +489,7 @@ func TestPlayStaysAndIsNewMemory(t *testing.T) {
 		if !slices.EqualFunc(room, kept, sameCmd) {
 			t.Fatalf("%s: the commands are others now", what)
 		}
-		for _, c := range room {
-			if opts := c.E.Opts[:len(c.E.Opts)+1]; opts[len(opts)-1] != (impl.Opt{Class: 5, Data: "room"}) {
-				t.Fatalf("%s: the room behind options was written: %v", what, opts)
-			}
-		}
+		wantOptRoom(t, what, room)
 		first, firstAnswers := played(t, list...)
 		second, secondAnswers := played(t, kept[:60]...)
 		if !sameGate(first, second) || !slices.EqualFunc(firstAnswers, secondAnswers, sameAnswer) {
